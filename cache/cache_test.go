@@ -238,8 +238,8 @@ func TestSlotsStayRight(t *testing.T) {
 				ups[got]++
 			}
 		case 1, 2:
-			for fr, n := range ups {
-				if n > 0 && r.Intn(2) == 0 {
+			for fr := range 7 {
+				if ups[fr] > 0 && r.Intn(2) == 0 {
 					p.Down(fr)
 					ups[fr]--
 				}
