@@ -1,6 +1,7 @@
 package dynamic_test
 
 import (
+	"bytes"
 	"encoding/binary"
 	"math/rand"
 	"reflect"
@@ -287,6 +288,9 @@ func TestSymbols(t *testing.T) {
 	parses(t, "a table of 7 bytes", with(hash, end-7), api.ErrForm)
 	parses(t, "a table of 8 bytes and no more", with(hash, end-8), api.ErrBig) // what is added to the last relocation
 	parses(t, "symbols up to the end", with(symTab, end-72), api.ErrForm)      // laid, but their names are none
+	odd := with(hash, 0)
+	copy(odd.b, bytes.Repeat([]byte{0xff}, off))
+	parses(t, "a table that is not laid, whatever the file begins with", odd, api.ErrForm)
 	x := newBlob()
 	x.put(le(4, 1, 65))
 	y := x.tag(hash, base, symTab, base)

@@ -131,6 +131,9 @@ func TestHeader(t *testing.T) {
 	for _, v := range []uint64{73, 128, 1 << 40, top, top - 55, top - 63} {
 		parses(t, "place of the headers", turned(32, 8, v), api.ErrForm)
 	}
+	cut := file(2, 0x400000, 176, with(code, func(r *row) { r.filesz = 100 }), row{})
+	parses(t, "the last header whole", cut, api.OK)
+	parses(t, "the last header without its alignment", cut[:168], api.ErrForm)
 	far := append(slices.Clone(x), x[64:120]...)
 	put(far, 32, 8, 128)
 	for i := 64; i < 120; i++ {
@@ -218,6 +221,9 @@ func TestLoadsRise(t *testing.T) {
 	parses(t, "a load on the next page", file(2, 0x400000, 256, even, row{1, 6, 1, 0x401001, 10, 10, 4096}), api.OK)
 	dyn := row{2, 0, 16, 0x402010, 16, 16, 0}
 	parses(t, "a dynamic segment in the second load", file(2, 0x400000, 256, first, row{1, 6, 0, 0x402000, 32, 32, 4096}, dyn), api.OK)
+	parses(t, "a dynamic segment at the beginning of a load", file(2, 0x400000, 256, first, row{1, 6, 32, 0x402020, 32, 32, 4096}, row{2, 0, 32, 0x402020, 16, 16, 0}), api.OK)
+	parses(t, "one further on, in a load from a place on", file(2, 0x400000, 256, first, row{1, 6, 32, 0x402020, 32, 32, 4096}, row{2, 0, 40, 0x402028, 16, 16, 0}), api.OK)
+	parses(t, "one at another place, in a load from a place on", file(2, 0x400000, 256, first, row{1, 6, 32, 0x402020, 32, 32, 4096}, row{2, 0, 40, 0x402030, 16, 16, 0}), api.ErrForm)
 	parses(t, "behind its filled part", file(2, 0x400000, 256, first, row{1, 6, 0, 0x402000, 31, 32, 4096}, dyn), api.ErrForm)
 }
 

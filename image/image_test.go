@@ -100,6 +100,23 @@ func TestSimple(t *testing.T) {
 	}
 }
 
+// TestWithoutPhdr: where no load has the program headers the vector does not tell them.
+func TestWithoutPhdr(t *testing.T) {
+	b := made(t, simple())
+	rows := slices.Clone(b[64+56 : 64+56*4])
+	at := len(b)
+	b = append(b, rows...)
+	binary.LittleEndian.PutUint64(b[32:], uint64(at))
+	b[56] = 3
+	p, e := image.Make(files(t, file("/bin/a", 0o755, 5, b)), user(7), "/bin/a", nil, nil)
+	if e != api.OK {
+		t.Fatalf("P22.1: %d", e)
+	}
+	if _, _, aux := told(t, p); len(aux) != 10 || aux[0] != (api.Aux{Key: 4, Value: 56}) || aux[1] != (api.Aux{Key: 5, Value: 3}) {
+		t.Errorf("P22.1: %v", aux)
+	}
+}
+
 func execfn(p api.Plan, aux []api.Aux) string {
 	last := p.Writes[len(p.Writes)-1]
 	rest := last.Bytes[aux[len(aux)-1].Value-p.Sp:]
@@ -414,7 +431,7 @@ func TestLastSteps(t *testing.T) {
 func TestBytes(t *testing.T) {
 	f := files(t, file("/f", 0o644, 0, []byte("0123456789")))
 	p := api.Plan{
-		Pieces: []api.Piece{piece(0x1000, 0x3000, 6, 4, 2), piece(0x3000, 0x4000, 6, -1, 0), piece(0x1008, 0x100a, 0, -1, 0), piece(0x1009, 0x100c, 0, 4, 0), piece(0x6000, 0x5000, 0, 4, 0), piece(0x9000, 0x9004, 0, 1, 0), piece(0x9004, 0x9008, 0, 99, 0), piece(0x9008, 0x900c, 0, -7, 0), piece(0xa000, 0xa010, 0, 4, top), piece(0xb000, 0xb010, 0, 4, 1<<63), piece(0xc000, 0xc010, 0, 4, top-3), piece(1<<47-4, 1<<47+4, 0, 4, 0), piece(1<<46, 1<<46+1<<20, 0, 4, 0)},
+		Pieces: []api.Piece{piece(0x1000, 0x3000, 6, 4, 2), piece(0x3000, 0x4000, 6, -1, 0), piece(0x1008, 0x100a, 0, -1, 0), piece(0x1009, 0x100c, 0, 4, 0), piece(0x6000, 0x5000, 0, 4, 0), piece(0x9000, 0x9004, 0, 1, 0), piece(0x9004, 0x9008, 0, 99, 0), piece(0x9008, 0x900c, 0, -7, 0), piece(0xa000, 0xa010, 0, 4, top), piece(0xb000, 0xb010, 0, 4, 1<<63), piece(0xc000, 0xc010, 0, 4, top-3), piece(0xd000, 0xd010, 0, 4, 0), piece(0xd002, 0xd005, 0, -1, 0), piece(1<<47-4, 1<<47+4, 0, 4, 0), piece(1<<46, 1<<46+1<<20, 0, 4, 0)},
 		Writes: []api.Write{{Addr: 0x1001, Bytes: []byte("ab")}, {Addr: 0x1002, Bytes: []byte("X")}, {Addr: 0x2fff, Bytes: []byte("YZ")}, {Addr: 0x7000, Bytes: []byte("nothing")}, {Addr: 0xfff, Bytes: []byte("uV")}, {Addr: top, Bytes: []byte("wrap")}, {Addr: 0x9001}},
 	}
 	for _, x := range []struct {
@@ -424,7 +441,7 @@ func TestBytes(t *testing.T) {
 		e    api.Errno
 	}{
 		{0x1000, 13, "VaX56789\x00012\x00", 0}, {0x1001, 3, "aX5", 0}, {0x1002, 1, "X", 0}, {0x1004, 1, "6", 0}, {0x2ffe, 4, "\x00YZ\x00", 0}, {0xfff, 1, "", api.ErrFault}, {0x3fff, 2, "", api.ErrFault}, {0x3fff, 1, "\x00", 0}, {0x7000, 1, "", api.ErrFault}, {0x5000, 1, "", api.ErrFault}, {0x5800, 1, "", api.ErrFault},
-		{0x9000, 12, strings.Repeat("\x00", 12), 0}, {0xa000, 16, strings.Repeat("\x00", 16), 0}, {0xb000, 16, strings.Repeat("\x00", 16), 0}, {0xc000, 16, strings.Repeat("\x00", 16), 0}, {1<<46 + 1<<19, 2, "\x00\x00", 0}, {1<<46 + 9, 2, "9\x00", 0}, {1<<46 + 5, 65536, "56789" + strings.Repeat("\x00", 65531), 0},
+		{0x9000, 12, strings.Repeat("\x00", 12), 0}, {0xa000, 16, strings.Repeat("\x00", 16), 0}, {0xa001, 3, "\x00\x00\x00", 0}, {0xc006, 3, "\x00\x00\x00", 0}, {0xd000, 6, "01\x00\x00\x005", 0}, {0xb000, 16, strings.Repeat("\x00", 16), 0}, {0xc000, 16, strings.Repeat("\x00", 16), 0}, {1<<46 + 1<<19, 2, "\x00\x00", 0}, {1<<46 + 9, 2, "9\x00", 0}, {1<<46 + 5, 65536, "56789" + strings.Repeat("\x00", 65531), 0},
 		{1<<47 - 4, 4, "0123", 0}, {1<<47 - 4, 5, "", api.ErrFault}, {1 << 47, 0, "", 0}, {1 << 47, 1, "", api.ErrFault}, {1<<47 + 1, 0, "", api.ErrFault}, {top, 0, "", api.ErrFault}, {top, 2, "", api.ErrFault}, {0x7000, 0, "", 0}, {0, 1, "", api.ErrFault},
 		{0x1000, -1, "", api.ErrArg}, {0x1000, 65537, "", api.ErrArg}, {top, 65537, "", api.ErrArg}, {0x1000, -1 << 63, "", api.ErrArg}, {0x1000, 65536, "", api.ErrFault},
 	} {

@@ -170,7 +170,7 @@ func TestMaps(t *testing.T) {
 	pages := func(b ...byte) string { return string(b) }
 	whole := long(65536)
 	does(t, k,
-		one{1, mapped(0, 0, 6), 0, "", api.ErrArg}, one{1, mapped(0, top, 6), 0, "", api.ErrArg}, one{1, mapped(0, top-4094, 6), 0, "", api.ErrArg}, one{1, mapped(0, top-4095, 6), 0, "", api.ErrNoMem}, one{1, mapped(0, 1, 8), 0, "", api.ErrArg}, one{1, mapped(0, 1, top), 0, "", api.ErrArg}, one{1, mapped(0, 1, 1<<8|6), 0, "", api.ErrArg},
+		one{1, mapped(0, 0, 6), 0, "", api.ErrArg}, one{1, mapped(0, top, 6), 0, "", api.ErrArg}, one{1, mapped(0, top-4094, 6), 0, "", api.ErrArg}, one{1, mapped(0, top-4095, 6), 0, "", api.ErrNoMem}, one{1, mapped(0, 1, 8), 0, "", api.ErrArg}, one{1, mapped(0, 1, 8, 1), 0, "", api.ErrArg}, one{1, mapped(0, 1, 8, 0, 4096), 0, "", api.ErrArg}, one{1, mapped(0, 1<<47, 8), 0, "", api.ErrArg}, one{1, mapped(0, 1, top), 0, "", api.ErrArg}, one{1, mapped(0, 1, 1<<8|6), 0, "", api.ErrArg},
 		one{1, mapped(0, 1, 6, 1), 0, "", api.ErrFd}, one{1, mapped(0, 1, 6, 17), 0, "", api.ErrFd}, one{1, mapped(0, 1, 6, top), 0, "", api.ErrFd}, one{1, mapped(0, 1, 6, 1<<32+1), 0, "", api.ErrFd}, one{1, mapped(0, 0, 6, 9), 0, "", api.ErrArg}, one{1, mapped(0, 1, 6, 0, 4096), 0, "", api.ErrArg}, one{1, mapped(0, 1, 6, 1, 1), 0, "", api.ErrFd},
 		one{1, mapped(mb+1, 1, 6), 0, "", api.ErrArg}, one{1, mapped(1<<47-4096, 4097, 6), 0, "", api.ErrArg}, one{1, mapped(top-4095, 4096, 6), 0, "", api.ErrArg}, one{1, mapped(top-4095, 4097, 6), 0, "", api.ErrArg}, one{1, mapped(0, 1<<47, 6), 0, "", api.ErrNoMem}, one{1, mapped(0, 1<<47, 6, 9), 0, "", api.ErrFd},
 		one{1, mapped(1<<47-4096, 1, 4), 1<<47 - 4096, "", 0}, one{1, load(1<<47-1, 1), 0, "\x00", 0},

@@ -59,7 +59,7 @@ func TestRefused(t *testing.T) {
 		e    api.Errno
 	}{
 		{"as it is", func(x *api.Spec) {}, api.OK},
-		{"type 0", func(x *api.Spec) { x.Type = 0 }, api.ErrArg}, {"type 1", func(x *api.Spec) { x.Type = 1 }, api.ErrArg}, {"type 4", func(x *api.Spec) { x.Type = 4 }, api.ErrArg},
+		{"type 0", func(x *api.Spec) { x.Type = 0 }, api.ErrArg}, {"type 1", func(x *api.Spec) { x.Type = 1 }, api.ErrArg}, {"type 4", func(x *api.Spec) { x.Type = 4 }, api.ErrArg}, {"type 4 with an entry", func(x *api.Spec) { x.Type, x.Entry = 4, 0x10000 }, api.ErrArg},
 		{"the text's first", func(x *api.Spec) { x.Entry = 0x10000 }, api.OK}, {"the text's last", func(x *api.Spec) { x.Entry = 0x10009 }, api.OK}, {"behind the text", func(x *api.Spec) { x.Entry = 0x1000a }, api.ErrArg}, {"ahead of the text", func(x *api.Spec) { x.Entry = 0xffff }, api.ErrArg}, {"entry 1", func(x *api.Spec) { x.Entry = 1 }, api.ErrArg}, {"an entry far away", func(x *api.Spec) { x.Entry = 1<<64 - 1 }, api.ErrArg},
 		{"an exec's first", func(x *api.Spec) { x.Type, x.Entry = 2, 0x410000 }, api.OK}, {"an exec's last", func(x *api.Spec) { x.Type, x.Entry = 2, 0x410009 }, api.OK}, {"behind an exec's text", func(x *api.Spec) { x.Type, x.Entry = 2, 0x41000a }, api.ErrArg}, {"an exec with a dyn's entry", func(x *api.Spec) { x.Type, x.Entry = 2, 0x10000 }, api.ErrArg}, {"an exec without entry", func(x *api.Spec) { x.Type = 2 }, api.ErrArg}, {"an entry without text", func(x *api.Spec) { x.Text, x.Entry = nil, 0x10000 }, api.ErrArg},
 		{"an interpreter", func(x *api.Spec) { x.Interp = "/lib/i" }, api.OK}, {"a long interpreter", func(x *api.Spec) { x.Interp = strings.Repeat("/", 200) }, api.OK}, {"an interpreter too long", func(x *api.Spec) { x.Interp = strings.Repeat("/", 201) }, api.ErrArg}, {"an interpreter with a nought", func(x *api.Spec) { x.Interp = "a\x00" }, api.ErrArg},
@@ -164,12 +164,26 @@ func TestWhereThingsStand(t *testing.T) {
 		{"noughts alone", api.Spec{Type: 3, More: 7}, 4096, []api.Seg{{Kind: 6, Flags: 4, Off: 64, Addr: 64, Filesz: 168, Memsz: 168}, {Kind: 1, Flags: 4, Filesz: 232, Memsz: 232}, {Kind: 1, Flags: 6, Off: 4096, Addr: 0x20000, Memsz: 7}}},
 		{"text and noughts", api.Spec{Type: 3, Text: make([]byte, 5000), More: 7}, 12288, []api.Seg{{Kind: 6, Flags: 4, Off: 64, Addr: 64, Filesz: 224, Memsz: 224}, {Kind: 1, Flags: 4, Filesz: 288, Memsz: 288}, {Kind: 1, Flags: 5, Off: 4096, Addr: 0x10000, Filesz: 5000, Memsz: 5000}, {Kind: 1, Flags: 6, Off: 12288, Addr: 0x20000, Memsz: 7}}},
 		{"text alone", api.Spec{Type: 3, Text: make([]byte, 4096)}, 8192, []api.Seg{{Kind: 6, Flags: 4, Off: 64, Addr: 64, Filesz: 168, Memsz: 168}, {Kind: 1, Flags: 4, Filesz: 232, Memsz: 232}, {Kind: 1, Flags: 5, Off: 4096, Addr: 0x10000, Filesz: 4096, Memsz: 4096}}},
+		{"a byte of each", api.Spec{Type: 3, Text: []byte{1}, Data: []byte{2}}, 8193, []api.Seg{{Kind: 6, Flags: 4, Off: 64, Addr: 64, Filesz: 224, Memsz: 224}, {Kind: 1, Flags: 4, Filesz: 288, Memsz: 288}, {Kind: 1, Flags: 5, Off: 4096, Addr: 0x10000, Filesz: 1, Memsz: 1}, {Kind: 1, Flags: 6, Off: 8192, Addr: 0x20000, Filesz: 1, Memsz: 1}}},
+		{"a nought", api.Spec{Type: 3, More: 1}, 4096, []api.Seg{{Kind: 6, Flags: 4, Off: 64, Addr: 64, Filesz: 168, Memsz: 168}, {Kind: 1, Flags: 4, Filesz: 232, Memsz: 232}, {Kind: 1, Flags: 6, Off: 4096, Addr: 0x20000, Memsz: 1}}},
+		{"a byte of data", api.Spec{Type: 3, Data: []byte{2}}, 4097, []api.Seg{{Kind: 6, Flags: 4, Off: 64, Addr: 64, Filesz: 168, Memsz: 168}, {Kind: 1, Flags: 4, Filesz: 232, Memsz: 232}, {Kind: 1, Flags: 6, Off: 4096, Addr: 0x20000, Filesz: 1, Memsz: 1}}},
 		{"an interpreter", api.Spec{Type: 3, Interp: "i"}, 234, []api.Seg{{Kind: 6, Flags: 4, Off: 64, Addr: 64, Filesz: 168, Memsz: 168}, {Kind: 3, Flags: 4, Off: 232, Addr: 232, Filesz: 2, Memsz: 2}, {Kind: 1, Flags: 4, Filesz: 234, Memsz: 234}}},
 	} {
 		b := made(t, x.s)
 		h, e := elf.Parse(b)
 		if len(b) != x.size || e != api.OK || !reflect.DeepEqual(h.Segs, x.want) {
 			t.Errorf("P14.2: %s: %d bytes, %d, %+v", x.name, len(b), e, h.Segs)
+		}
+	}
+}
+
+// TestHashTables: how many buckets and links there are (P14.3).
+func TestHashTables(t *testing.T) {
+	for n := 1; n <= 64; n++ {
+		b := made(t, api.Spec{Type: 3, Dynamic: true, Dyn: api.Dynamic{Syms: make([]api.Sym, n)}})
+		table := 64 + 3*56 + 16*6 // behind the section of 5 entries and the last one
+		if at(b, table, 4) != uint64(n/2+1) || at(b, table+4, 4) != uint64(n+1) || at(b, table+8, 4) != 1 {
+			t.Errorf("P14.3: of %d symbols: %d buckets, %d links", n, at(b, table, 4), at(b, table+4, 4))
 		}
 	}
 }

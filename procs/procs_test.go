@@ -162,6 +162,7 @@ func TestForkIsACopy(t *testing.T) {
 	}
 	l := x.List()
 	want := api.Proc{Pid: 1, State: api.StRuns, Creds: a.Creds, Fds: a.Fds.List(), Regions: a.Space.Regions(), Entry: a.Entry, Sp: a.Sp, Secure: a.Secure}
+	want.Creds.Groups = slices.Clone(want.Creds.Groups)
 	if !reflect.DeepEqual(l[0], want) || l[0].Entry != 0x410000 || l[0].Sp == 0 {
 		t.Errorf("P24.6: %+v, want %+v", l[0], want)
 	}

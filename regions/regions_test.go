@@ -46,7 +46,7 @@ func TestMayBe(t *testing.T) {
 		may bool
 	}{
 		{r1, true}, {f1, true}, {reg(0, 1, 0, -1, 0), true}, {reg(0, end, 7, -1, 0), true}, {reg(end-1, end, 7, 0, 0), true},
-		{reg(0, 1, 0, 5, 1<<36-1), true}, {reg(0, 1, 0, 5, 1<<36), false}, {reg(0, 2, 0, 5, 1<<36-1), false}, {reg(0, end, 0, 5, 1<<36-end), true}, {reg(0, end, 0, 5, 1<<36-end+1), false}, {reg(0, 1, 0, 5, 1<<52-1), false},
+		{reg(0, 1, 0, 5, 1<<36-1), true}, {reg(1<<20, 1<<20+1, 0, 5, 1<<36-1), true}, {reg(0, 1, 0, 5, 1<<36), false}, {reg(0, 2, 0, 5, 1<<36-1), false}, {reg(0, end, 0, 5, 1<<36-end), true}, {reg(0, end, 0, 5, 1<<36-end+1), false}, {reg(0, 1, 0, 5, 1<<52-1), false},
 		{reg(1, 1, 4, -1, 0), false}, {reg(2, 1, 4, -1, 0), false}, {reg(end, end+1, 4, -1, 0), false}, {reg(0, end+1, 4, -1, 0), false}, {reg(0, 1<<52-1, 4, -1, 0), false}, {reg(1, 3, 8, -1, 0), false}, {reg(1, 3, 255, -1, 0), false}, {reg(1, 3, 4, -2, 0), false}, {reg(1, 3, 4, -1<<63, 0), false}, {reg(1, 3, 4, -1, 1), false},
 		{with(f1, func(r *api.Region) { r.From++ }), false}, {with(f1, func(r *api.Region) { r.To-- }), false}, {with(f1, func(r *api.Region) { r.Off = 1 }), false}, {with(r1, func(r *api.Region) { r.Off = 1 }), false}, {with(f1, func(r *api.Region) { r.Off = top - 4095 }), false}, {api.Region{}, false},
 	} {
