@@ -336,6 +336,28 @@ func (m *model) need() int {
 	return n
 }
 
+// count does a step, and tells how many pages and nodes there are ahead of it and behind it, taken together.
+func (m *model) count(s api.Step) (api.Result, int) {
+	old := map[*memory]map[uint64]bool{}
+	if p := m.procs[s.Pid]; p != nil && !p.ended {
+		old[p.mem] = map[uint64]bool{}
+		for at := range p.mem.pages {
+			old[p.mem][at] = true
+		}
+	}
+	r := m.do(s.Pid, s.Call)
+	for _, p := range m.procs {
+		if !p.ended && old[p.mem] == nil {
+			old[p.mem] = map[uint64]bool{}
+		}
+	}
+	taken := 0
+	for mem, others := range old {
+		taken += mem.need(others)
+	}
+	return r, taken
+}
+
 // chance is a step, made by chance. The number 1 ends seldom.
 func chance(r *rand.Rand) api.Step {
 	places := []uint64{mb, mb + 0x1000, mb + 0x2000, mb + 0x5000, 0x400000, 0x410000, 0x420000, 0x421000, api.StackTop - 0x1000, api.StackTop - 0x3000, api.LibBase + 0x20000, api.MainBase + 0x20000, 0, 1<<47 - 0x1000, top - 4095, mb + 1<<30, mb + 1<<39}
@@ -487,23 +509,7 @@ func TestPrivateAndEnough(t *testing.T) {
 		}
 		for step := range 250 {
 			s := chance(r)
-			old := map[*memory]map[uint64]bool{}
-			if p := m.procs[s.Pid]; p != nil && !p.ended {
-				old[p.mem] = map[uint64]bool{}
-				for at := range p.mem.pages {
-					old[p.mem][at] = true
-				}
-			}
-			want := m.do(s.Pid, s.Call)
-			for _, p := range m.procs {
-				if !p.ended && old[p.mem] == nil {
-					old[p.mem] = map[uint64]bool{}
-				}
-			}
-			taken := 0
-			for mem, others := range old {
-				taken += mem.need(others)
-			}
+			want, taken := m.count(s)
 			most = max(most, taken)
 			got := k.Do(s.Pid, s.Call)
 			if !sameResult(got, want) {
@@ -546,5 +552,36 @@ func TestPrivateAndEnough(t *testing.T) {
 	}
 	if failed < 10 || done < 5000 {
 		t.Errorf("%d times ErrNoMem, %d steps: the scripts say too little", failed, done)
+	}
+}
+
+// TestEnough: with just 8 frames more than there are pages and nodes at any step no step is answered
+// ErrNoMem that processes that share nothing would not be answered (W8).
+func TestEnough(t *testing.T) {
+	for seed := range int64(60) {
+		r := rand.New(rand.NewSource(5000 + seed))
+		m := newModel(config(1))
+		most := m.need()
+		var l []api.Step
+		var want []api.Result
+		for range 120 {
+			s := chance(r)
+			before := most
+			result, taken := m.count(s)
+			if most = max(before, taken); most > api.MaxFrames-8 {
+				break
+			}
+			l, want = append(l, s), append(want, result)
+		}
+		k, e := kernel.New(config(min(most+8, api.MaxFrames)))
+		if e != api.OK {
+			t.Fatalf("W8: seed %d: %d", seed, e)
+		}
+		for step, got := range k.Run(l) {
+			if !sameResult(got, want[step]) {
+				t.Fatalf("W8: seed %d, step %d of %d frames, %+v: %+v, want %+v", seed, step, most+8, l[step], got, want[step])
+			}
+		}
+		counted(t, k)
 	}
 }
